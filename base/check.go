@@ -4,7 +4,7 @@ import (
 	"slices"
 
 	"winnower/api"
-	"winnower/roll"
+	"winnower/bucket"
 )
 
 // Name: may it be one of a series?
@@ -56,7 +56,7 @@ func treesMayBe(b api.Base) bool {
 		if e != api.OK {
 			return false
 		}
-		want, e := bucketsOf(points, sizes[step])
+		want, e := bucket.Gather(points, bucket.Sizes()[step])
 		if e != api.OK || !slices.Equal(have, want) {
 			return false
 		}
@@ -66,29 +66,10 @@ func treesMayBe(b api.Base) bool {
 
 func pointsMayBe(b api.Base, points []api.Entry) bool {
 	for _, x := range points {
-		time := timeOf(x.Key)
-		if placeOf(x.Key) >= len(b.Names) || time < b.Floor || time != x.Is.Time {
+		time := bucket.Time(x.Key)
+		if bucket.Place(x.Key) >= len(b.Names) || time < b.Floor || time != x.Is.Time {
 			return false
 		}
 	}
 	return true
-}
-
-// bucketsOf points whose keys rise: those of one bucket stand side by side then.
-func bucketsOf(points []api.Entry, size int) ([]api.Entry, api.Errno) {
-	var l []api.Entry
-	for _, x := range points {
-		key := keyOf(placeOf(x.Key), beginOf(timeOf(x.Key), size))
-		last := len(l) - 1
-		if last < 0 || l[last].Key != key {
-			l = append(l, api.Entry{Key: key, Is: x.Is})
-			continue
-		}
-		r, e := roll.Merge(l[last].Is, x.Is)
-		if e != api.OK {
-			return nil, e
-		}
-		l[last].Is = r
-	}
-	return l, api.OK
 }
