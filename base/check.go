@@ -48,7 +48,7 @@ func namesMayBe(l []string) bool {
 // treesMayBe: does the first one know of points, and do the others know of buckets just what comes of these?
 func treesMayBe(b api.Base) bool {
 	points, e := all(b.Trees[0])
-	if e != api.OK || !pointsMayBe(b, points) {
+	if e != api.OK || !bucket.PointsMayBe(points, len(b.Names), b.Floor) {
 		return false
 	}
 	for step := 1; step < api.Steps; step++ {
@@ -58,16 +58,6 @@ func treesMayBe(b api.Base) bool {
 		}
 		want, e := bucket.Gather(points, bucket.Sizes()[step])
 		if e != api.OK || !slices.Equal(have, want) {
-			return false
-		}
-	}
-	return true
-}
-
-func pointsMayBe(b api.Base, points []api.Entry) bool {
-	for _, x := range points {
-		time := bucket.Time(x.Key)
-		if bucket.Place(x.Key) >= len(b.Names) || time < b.Floor || time != x.Is.Time {
 			return false
 		}
 	}

@@ -1,4 +1,4 @@
-// Package bucket: the sizes of buckets, the keys of points and of buckets, and what comes of points there.
+// Package bucket: the sizes of buckets, the keys of points and of buckets, which points may be, and what comes of them there.
 package bucket
 
 import (
@@ -36,6 +36,20 @@ func Time(key int) int { return key % timesOfSeries }
 
 // Begin of the bucket of a size in which a time is. Times are counted from the series' first one: a key is not a multiple of a size where its time is.
 func Begin(time, size int) int { return time - time%size }
+
+// PointsMayBe: may a base with so many series, and a Floor, know of these? Their keys are not below 0.
+func PointsMayBe(points []api.Entry, series, floor int) bool {
+	for _, x := range points {
+		time := Time(x.Key)
+		if Place(x.Key) >= series || time < floor || time != x.Is.Time {
+			return false
+		}
+		if x.Is.Count == 0 || roll.Check(x.Is) != api.OK {
+			return false
+		}
+	}
+	return true
+}
 
 // Gather what is known of points, whose keys rise, into buckets of a size: those of one bucket stand side by side then.
 func Gather(points []api.Entry, size int) ([]api.Entry, api.Errno) {

@@ -52,6 +52,38 @@ func TestBegin(t *testing.T) {
 	}
 }
 
+func TestPointsMayBe(t *testing.T) {
+	second := 1 << 20
+	first := api.Entry{Key: 3600, Is: one(3600, 4)}
+	for name, c := range map[string]struct {
+		last   api.Entry
+		series int
+		floor  int
+		want   bool
+	}{
+		"two of one series":      {api.Entry{Key: 3601, Is: one(3601, 1)}, 1, 0, true},
+		"at the Floor":           {api.Entry{Key: second + 3600, Is: one(3600, 1)}, 2, 3600, true},
+		"below the Floor":        {api.Entry{Key: second + 3599, Is: one(3599, 1)}, 2, 3600, false},
+		"the first below it":     {api.Entry{Key: 7200, Is: one(7200, 1)}, 1, 7200, false},
+		"of the last series":     {api.Entry{Key: 2*second - 1, Is: one(second-1, 1)}, 2, 0, true},
+		"of the one behind it":   {api.Entry{Key: 2 * second, Is: one(0, 1)}, 2, 0, false},
+		"of another time":        {api.Entry{Key: 3601, Is: one(3600, 1)}, 1, 0, false},
+		"of no points":           {api.Entry{Key: second}, 2, 0, false},
+		"a value beyond":         {api.Entry{Key: 3601, Is: one(3601, api.MaxValue+1)}, 1, 0, false},
+		"a rollup not in form":   {api.Entry{Key: 3601, Is: api.Rollup{Count: 1, Sum: 2, Min: 1, Max: 1, Time: 3601, Last: 1}}, 1, 0, false},
+		"no series":              {api.Entry{Key: 3601, Is: one(3601, 1)}, 0, 0, false},
+		"the greatest key":       {api.Entry{Key: 1<<40 - 1, Is: one(second-1, 1)}, 16, 0, false},
+		"the greatest of series": {api.Entry{Key: 16*second - 1, Is: one(second-1, 1)}, 16, 0, true},
+	} {
+		if got := PointsMayBe([]api.Entry{first, c.last}, c.series, c.floor); got != c.want {
+			t.Errorf("%s: %t, want %t", name, got, c.want)
+		}
+	}
+	if !PointsMayBe(nil, 0, 0) {
+		t.Errorf("no points may not be")
+	}
+}
+
 // TestGather: buckets are counted from the beginning of each series, though the first key of the second one is no multiple of 60.
 func TestGather(t *testing.T) {
 	second := 1 << 20

@@ -2,6 +2,7 @@ package file
 
 import (
 	"bytes"
+	"fmt"
 	"slices"
 	"testing"
 
@@ -215,6 +216,63 @@ func TestDecodeThereIsNoSuchBase(t *testing.T) {
 	} {
 		refused(t, name, s.bytes(), api.ErrState)
 	}
+}
+
+// spoilt sheets of so many times, so that there is no such base: by its names, its Floor, or a point at a place.
+func spoilt(times, place int) map[string]sheet {
+	with := func(names []string, floor int, change func(x *api.Entry)) sheet {
+		s := many(times)
+		s.names, s.floor = names, floor
+		if change != nil {
+			change(&s.points[place])
+		}
+		return s
+	}
+	return map[string]sheet{
+		"a name that is none":         with([]string{"a-b"}, 0, nil),
+		"an empty name":               with([]string{""}, 0, nil),
+		"a name twice":                with([]string{"a", "a"}, 0, nil),
+		"no names":                    with(nil, 0, nil),
+		"a Floor that is no multiple": with(letters(1), 1, nil),
+		"a Floor above all times":     with(letters(1), lastFloor+3600, nil),
+		"times below the Floor":       with(letters(1), 3600, nil),
+		"a Count above MaxCount":      with(letters(1), 0, func(x *api.Entry) { x.Is.Count = api.MaxCount + 1 }),
+		"a Sum above":                 with(letters(1), 0, func(x *api.Entry) { x.Is.Sum = x.Is.Max + 1 }),
+		"a Min above the Max":         with(letters(1), 0, func(x *api.Entry) { x.Is.Min = x.Is.Max + 1 }),
+		"a Last below":                with(letters(1), 0, func(x *api.Entry) { x.Is.Last = x.Is.Min - 1 }),
+		"too many in a bucket":        with(letters(1), 0, func(x *api.Entry) { *x = at(0, x.Key, api.MaxCount, 1) }),
+	}
+}
+
+// TestDecodeThereIsNoSuchBaseOfManyTimes: that is told, however many times there are, and wherever among them the wrong one stands.
+func TestDecodeThereIsNoSuchBaseOfManyTimes(t *testing.T) {
+	for _, times := range []int{2, 2900, 2901, 8990, mostTimes} {
+		for _, place := range []int{0, times / 2, times - 1} {
+			for name, s := range spoilt(times, place) {
+				refused(t, fmt.Sprintf("%s, %d times, at %d", name, times, place), s.bytes(), api.ErrState)
+			}
+		}
+		s := many(times - 1)
+		s.points = append(s.points, at(1, 0, 1, 1))
+		refused(t, fmt.Sprintf("no series has the last one of %d times", times), s.bytes(), api.ErrState)
+		s = sheet{names: letters(2), floor: 3600}
+		for i := range times - 1 {
+			s.points = append(s.points, at(0, 3600+i, 1, 1))
+		}
+		s.points = append(s.points, at(1, 3599, 1, 1))
+		refused(t, fmt.Sprintf("the last one of %d times is below the Floor", times), s.bytes(), api.ErrState)
+	}
+}
+
+// TestDecodeBucketsOf3600OfManyTimes: those that can't come together stand far apart, in no bucket of 60 together.
+func TestDecodeBucketsOf3600OfManyTimes(t *testing.T) {
+	s := sheet{names: letters(16)}
+	for i := range mostTimes - 1 {
+		s.points = append(s.points, at(i/1000, i%1000*60, 1, 1))
+	}
+	last := s.points[len(s.points)-1].Is.Time
+	s.points = append(s.points, at(9, last+60, api.MaxCount, 1))
+	refused(t, "too many in a bucket of 3600, of 10000 times", s.bytes(), api.ErrState)
 }
 
 // TestDecodeCutShort: at each place, with the seal as it was, or with one of what is there.
